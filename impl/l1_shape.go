@@ -56,8 +56,14 @@ func (r numberRule) lastPlaceUpTo(n int) int {
 }
 
 func (r numberRule) placeOf(n int) (int, bool) {
-	place := r.lastPlaceUpTo(n)
-	if r.numberAt(place) != n {
+	return placeBelow(beyondPlaces, n, r.numberAt)
+}
+
+// placeBelow returns the place below beyond that has the number n. It takes for granted that
+// no number is less than one of a place before, and fails if no place has n.
+func placeBelow(beyond int, n int, numberAt func(place int) int) (int, bool) {
+	place := lastThatFits(beyond, func(place int) bool { return numberAt(place) <= n })
+	if numberAt(place) != n {
 		return 0, false
 	}
 	return place, true
