@@ -2,6 +2,7 @@ package tests
 
 import (
 	"math"
+	"slices"
 	"testing"
 	"time"
 )
@@ -36,6 +37,27 @@ func inTime(t *testing.T, calls func()) {
 		}
 	case <-time.After(30 * time.Second):
 		t.Fatal("the calls run long")
+	}
+}
+
+// spoil changes a list and the room behind it.
+func spoil(list []int) {
+	for i := range list {
+		list[i] = math.MaxInt
+	}
+	_ = append(list, math.MinInt, math.MinInt)
+}
+
+// checkListsAreNew checks that a result that is spoilt changes no later one of the same call.
+func checkListsAreNew(t *testing.T, calls map[string]func() ([]int, bool)) {
+	t.Helper()
+	for name, call := range calls {
+		list, _ := call()
+		want := slices.Clone(list)
+		spoil(list)
+		if again, ok := call(); !slices.Equal(again, want) || len(want) == 0 || !ok {
+			t.Error(name, again, ok, want)
+		}
 	}
 }
 

@@ -132,13 +132,7 @@ func TestArePartsOfAnyList(t *testing.T) {
 // TestSumListsAreNew checks that a result that is changed changes no later one, and that the
 // lists of one result share no memory.
 func TestSumListsAreNew(t *testing.T) {
-	spoil := func(list []int) {
-		for i := range list {
-			list[i] = math.MaxInt
-		}
-		_ = append(list, math.MinInt, math.MinInt)
-	}
-	calls := map[string]func() ([]int, bool){
+	checkListsAreNew(t, map[string]func() ([]int, bool){
 		"ThreeTriangles":    func() ([]int, bool) { return impl.ThreeTriangles(12) },
 		"FirstFewest":       func() ([]int, bool) { return impl.FirstFewest(4, 12) },
 		"GreedyParts":       func() ([]int, bool) { return impl.GreedyParts(4, 12) },
@@ -146,15 +140,7 @@ func TestSumListsAreNew(t *testing.T) {
 		"NeedMost":          func() ([]int, bool) { return impl.NeedMost(4, 40) },
 		"FirstDifferentSum": func() ([]int, bool) { return impl.FirstDifferentSum(3, 40) },
 		"NoDifferentSum":    func() ([]int, bool) { return impl.NoDifferentSum(3, 40) },
-	}
-	for name, call := range calls {
-		list, _ := call()
-		want := slices.Clone(list)
-		spoil(list)
-		if again, ok := call(); !slices.Equal(again, want) || len(want) == 0 || !ok {
-			t.Error(name, again, ok, want)
-		}
-	}
+	})
 	lists, _ := impl.AllSums(3, 60, 4)
 	want, _ := impl.AllSums(3, 60, 4)
 	for i := range lists {
