@@ -41,22 +41,41 @@ func inTime(t *testing.T, calls func()) {
 }
 
 // spoil changes a list and the room behind it.
-func spoil(list []int) {
+func spoil[Item any](list []Item, spoilt Item) {
 	for i := range list {
-		list[i] = math.MaxInt
+		list[i] = spoilt
 	}
-	_ = append(list, math.MinInt, math.MinInt)
+	_ = append(list, spoilt, spoilt)
 }
 
 // checkListsAreNew checks that a result that is spoilt changes no later one of the same call.
-func checkListsAreNew(t *testing.T, calls map[string]func() ([]int, bool)) {
+func checkListsAreNew[Item comparable](t *testing.T, spoilt Item, calls map[string]func() ([]Item, bool)) {
 	t.Helper()
 	for name, call := range calls {
 		list, _ := call()
 		want := slices.Clone(list)
-		spoil(list)
+		spoil(list, spoilt)
 		if again, ok := call(); !slices.Equal(again, want) || len(want) == 0 || !ok {
 			t.Error(name, again, ok, want)
+		}
+	}
+}
+
+// checkTablesAreNew checks the same of lists of lists, and that the lists of one result share no
+// memory.
+func checkTablesAreNew(t *testing.T, calls map[string]func() ([][]int, bool)) {
+	t.Helper()
+	for name, call := range calls {
+		lists, _ := call()
+		want, _ := call()
+		for i := range lists {
+			spoil(lists[i], math.MaxInt)
+			if !sameLists(lists[i+1:], want[i+1:]) {
+				t.Error(name, "shares the memory of a list", i)
+			}
+		}
+		if again, ok := call(); !sameLists(again, want) || len(want) < 3 || !ok {
+			t.Error(name, again, ok)
 		}
 	}
 }

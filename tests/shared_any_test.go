@@ -155,7 +155,7 @@ func checkAnyList(t *testing.T, list []int, room []int) {
 
 // TestSharedListsAreNew checks that a result that is changed changes no later one.
 func TestSharedListsAreNew(t *testing.T) {
-	checkListsAreNew(t, map[string]func() ([]int, bool){
+	checkListsAreNew(t, math.MaxInt, map[string]func() ([]int, bool){
 		"SharedUpTo":    func() ([]int, bool) { return impl.SharedUpTo(3, 4, 2000) },
 		"SharedByThree": func() ([]int, bool) { return impl.SharedByThree(3, 6, 10, 20000) },
 		"NearRight":     func() ([]int, bool) { return impl.NearRight(2) },

@@ -107,7 +107,7 @@ func TestSolidCallsOfThreeNumbers(t *testing.T) {
 
 // TestSolidListsAreNew checks that a result that is changed changes no later one.
 func TestSolidListsAreNew(t *testing.T) {
-	checkListsAreNew(t, map[string]func() ([]int, bool){
+	checkListsAreNew(t, math.MaxInt, map[string]func() ([]int, bool){
 		"LayerList":       func() ([]int, bool) { return impl.LayerList(5, 20) },
 		"Cannonballs":     func() ([]int, bool) { return impl.Cannonballs(3, 3, 40) },
 		"FirstTetrahedra": func() ([]int, bool) { return impl.FirstTetrahedra(17) },

@@ -87,7 +87,7 @@ func sameLists(a [][]int, b [][]int) bool {
 	return slices.EqualFunc(a, b, slices.Equal[[]int])
 }
 
-func wantList(t *testing.T, call string, a int, b int, got []int, ok bool, want []int, wantOk bool) {
+func wantList[Item comparable](t *testing.T, call string, a int, b int, got []Item, ok bool, want []Item, wantOk bool) {
 	t.Helper()
 	if !slices.Equal(got, want) || ok != wantOk {
 		t.Fatalf("%s of %d and %d is %v, %v, not %v, %v", call, a, b, got, ok, want, wantOk)
